@@ -76,6 +76,39 @@ def starts_mask(d, mask):
     return starts
 
 
+def masks_in_range(masks):
+    """Whether a list holds at most 1024 numbers, each a mask."""
+    return len(masks) <= MOST_MASKS and all_below(masks, LONG_SPAN)
+
+
+def slots_of(mask):
+    """The slots that a mask has, rising."""
+    return [slot for slot in range(SLOTS) if (mask >> slot) & 1 == 1]
+
+
+def longest_row(slots):
+    """Where the first of the longest rows of rising slots begins, and how long it is."""
+    longest_begin = 0
+    longest = 0
+    length = 0
+    last = -1
+    for slot in slots:
+        length = length + 1 if slot == last + 1 else 1
+        if length > longest:
+            longest_begin = slot - length + 1
+            longest = length
+        last = slot
+    return [longest_begin, longest]
+
+
+def facts_of(mask):
+    """How many slots a mask has, the first, the last, and where its longest row begins and how long it is."""
+    slots = slots_of(mask)
+    if not slots:
+        return [0, SLOTS, SLOTS, 0, 0]
+    return [len(slots), slots[0], slots[-1]] + longest_row(slots)
+
+
 def np_up(t, z, l):
     """Of each way of l the mask of the slots whose zenith in z it is at least t along."""
     if not all_below([t], LONG_SPAN):
@@ -93,8 +126,27 @@ def np_up(t, z, l):
 
 def np_starts(d, l):
     """Of each mask of l the mask of the slots at which d in a row may begin."""
-    if d < 0 or d > SLOTS:
-        return [OUT_OF_RANGE]
-    if len(l) > MOST_MASKS or not all_below(l, LONG_SPAN):
+    if d < 0 or d > SLOTS or not masks_in_range(l):
         return [OUT_OF_RANGE]
     return [0] + [starts_mask(d, mask) for mask in l]
+
+
+def np_facts(l):
+    """Of each mask of l how many slots, the first, the last, and where the longest row begins and how long it is."""
+    if not masks_in_range(l):
+        return [OUT_OF_RANGE]
+    answer = [0]
+    for mask in l:
+        answer.extend(facts_of(mask))
+    return answer
+
+
+def np_crowd(l):
+    """Of each slot how many masks of l have it."""
+    if not masks_in_range(l):
+        return [OUT_OF_RANGE]
+    counts = [0] * SLOTS
+    for mask in l:
+        for slot in slots_of(mask):
+            counts[slot] = counts[slot] + 1
+    return [0] + counts

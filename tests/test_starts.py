@@ -2,17 +2,8 @@
 
 import unittest
 
+from helper import ALL, check_plain, check_stands_alone, mask_of, row, spread_masks
 from nightplan.plan import np_starts
-
-ALL = 2 ** 64 - 1
-
-
-def mask_of(*slots):
-    return sum(2 ** slot for slot in slots)
-
-
-def row(first, last):
-    return mask_of(*range(first, last + 1))
 
 
 def expected(d, masks):
@@ -25,19 +16,6 @@ def expected(d, masks):
                 starts += 2 ** i
         answer.append(starts)
     return answer
-
-
-def spread_masks(count, seed):
-    """Masks with few and with many slots, the same each time."""
-    masks = []
-    state = seed
-    for number in range(count):
-        drawn = []
-        for _ in range(3):
-            state = (state * 6364136223846793005 + 1442695040888963407) % 2 ** 64
-            drawn.append((state ^ state >> 29) * 11400714819323198485 % 2 ** 64)
-        masks.append((drawn[0], drawn[0] | drawn[1] | drawn[2], drawn[0] & drawn[1])[number % 3])
-    return masks
 
 
 class Ordinary(unittest.TestCase):
@@ -133,23 +111,14 @@ class HowMany(unittest.TestCase):
 
 
 class StandsAlone(unittest.TestCase):
-    def check(self, d, l):
-        before = list(l)
-        first = np_starts(d, l)
-        kept = list(first)
-        self.assertEqual(l, before)
-        first.append(99)
-        self.assertEqual(np_starts(d, l), kept)
-        self.assertEqual(l, before)
-
     def test_nothing_is_changed_or_kept(self):
         for d in (0, 1, 2, 64):
-            self.check(d, spread_masks(20, d))
-            self.check(d, [])
+            check_stands_alone(self, np_starts, d, spread_masks(20, d))
+            check_stands_alone(self, np_starts, d, [])
 
     def test_nothing_is_changed_or_kept_at_a_refusal(self):
-        self.check(65, [ALL, 1])
-        self.check(1, [ALL] * 1025)
+        check_stands_alone(self, np_starts, 65, [ALL, 1])
+        check_stands_alone(self, np_starts, 1, [ALL] * 1025)
 
     def test_other_calls_between_make_no_difference(self):
         masks = spread_masks(20, 9)
@@ -163,8 +132,7 @@ class StandsAlone(unittest.TestCase):
 
     def test_answer_is_a_list_of_plain_numbers(self):
         for answer in (np_starts(2, [7, 0]), np_starts(0, [1]), np_starts(1, [5]), np_starts(65, [])):
-            self.assertIs(type(answer), list)
-            self.assertEqual({type(number) for number in answer}, {int})
+            check_plain(self, answer)
 
 
 if __name__ == "__main__":

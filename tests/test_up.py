@@ -2,18 +2,10 @@
 
 import unittest
 
+from helper import ALL, check_plain, check_stands_alone, next_state, words
 from nightplan.plan import np_up
 
 SIZE = 2 ** 24
-ALL = 2 ** 64 - 1
-
-
-def word(number):
-    return number % 2 ** 32
-
-
-def words(*ways):
-    return [word(number) for way in ways for number in way]
 
 
 def up(t, zeniths, ways):
@@ -34,7 +26,7 @@ def spread_ways(count, seed):
     numbers = []
     state = seed
     for _ in range(3 * count):
-        state = (state * 6364136223846793005 + 1442695040888963407) % 2 ** 64
+        state = next_state(state)
         reach = 2 ** (state // 2 ** 40 % 25)
         numbers.append(state // 2 ** 20 % (2 * reach + 1) - reach)
     return [tuple(numbers[i:i + 3]) for i in range(0, 3 * count, 3)]
@@ -198,23 +190,13 @@ class Refusals(unittest.TestCase):
 
 
 class StandsAlone(unittest.TestCase):
-    def check(self, t, z, l):
-        z_before = list(z)
-        l_before = list(l)
-        first = np_up(t, z, l)
-        kept = list(first)
-        self.assertEqual((z, l), (z_before, l_before))
-        first.append(99)
-        self.assertEqual(np_up(t, z, l), kept)
-        self.assertEqual((z, l), (z_before, l_before))
-
     def test_nothing_is_changed_or_kept(self):
-        self.check(2 ** 64 - 5, words(*spread_ways(9, 1)), words(*spread_ways(20, 2)))
-        self.check(0, words((1, 0, 0)), [])
+        check_stands_alone(self, np_up, 2 ** 64 - 5, words(*spread_ways(9, 1)), words(*spread_ways(20, 2)))
+        check_stands_alone(self, np_up, 0, words((1, 0, 0)), [])
 
     def test_nothing_is_changed_or_kept_at_a_refusal(self):
-        self.check(0, words((SIZE + 1, 0, 0)), words((-1, 0, 0)))
-        self.check(0, words(*[(-1, 0, 0)] * 65), words((-1, 0, 0)))
+        check_stands_alone(self, np_up, 0, words((SIZE + 1, 0, 0)), words((-1, 0, 0)))
+        check_stands_alone(self, np_up, 0, words(*[(-1, 0, 0)] * 65), words((-1, 0, 0)))
 
     def test_other_calls_between_make_no_difference(self):
         z = words(*spread_ways(9, 3))
@@ -229,8 +211,7 @@ class StandsAlone(unittest.TestCase):
 
     def test_answer_is_a_list_of_plain_numbers(self):
         for answer in (up(0, [(1, 0, 0)], [(1, 0, 0)]), up(0, [(2 ** 30, 0, 0)], []), up(0, [(0, 0, 0)] * 65, [])):
-            self.assertIs(type(answer), list)
-            self.assertEqual({type(number) for number in answer}, {int})
+            check_plain(self, answer)
 
 
 if __name__ == "__main__":
