@@ -1,1 +1,1 @@
-"""A night's plan: when stars are up, where rows of slots may begin, and what masks have in them."""
+"""A night's plan: when stars are up, where rows of slots may begin, the best jobs, and the shortest tour."""

@@ -2,6 +2,8 @@
 
 OUT_OF_RANGE = -2
 WAY_TOO_LONG = -3
+JOBS_OUT_OF_ORDER = -3
+NO_SUCH_PLACE = -3
 
 SLOTS = 64
 ALL_SLOTS = 18446744073709551615
@@ -11,7 +13,10 @@ LONG_SPAN = 18446744073709551616
 MOST_ZENITHS = 64
 MOST_WAYS = 1024
 MOST_MASKS = 1024
+MOST_JOBS = 16
+MOST_PLACES = 8
 GREATEST_SIZE = 16777216
+GREATEST_SPEED = 1048576
 
 
 def all_below(numbers, span):
@@ -34,9 +39,9 @@ def signed_words(words):
     return [signed(word, WORD_SPAN) for word in words]
 
 
-def ways_in_range(words, most):
-    """Whether a flat list holds at most so many ways, of words alone."""
-    return len(words) <= 3 * most and all_below(words, WORD_SPAN)
+def words_in_range(words, most):
+    """Whether a list holds at most so many numbers, each below 2^32."""
+    return len(words) <= most and all_below(words, WORD_SPAN)
 
 
 def all_small(numbers):
@@ -48,8 +53,13 @@ def all_small(numbers):
 
 
 def in_threes(numbers):
-    """The ways of a flat list, each a tuple of three numbers."""
+    """The ways or jobs of a flat list, each a tuple of three numbers."""
     return [(numbers[i], numbers[i + 1], numbers[i + 2]) for i in range(0, len(numbers), 3)]
+
+
+def in_twos(numbers):
+    """The places of a flat list, each a tuple of two numbers."""
+    return [(numbers[i], numbers[i + 1]) for i in range(0, len(numbers), 2)]
 
 
 def along(way, other):
@@ -76,14 +86,19 @@ def starts_mask(d, mask):
     return starts
 
 
+def speed_in_range(speed):
+    """Whether a speed of turning is from 1 to 2^20."""
+    return speed >= 1 and speed <= GREATEST_SPEED
+
+
 def masks_in_range(masks):
     """Whether a list holds at most 1024 numbers, each a mask."""
     return len(masks) <= MOST_MASKS and all_below(masks, LONG_SPAN)
 
 
-def slots_of(mask):
-    """The slots that a mask has, rising."""
-    return [slot for slot in range(SLOTS) if (mask >> slot) & 1 == 1]
+def bits_of(mask):
+    """The slots, or places, that a mask has, rising."""
+    return [bit for bit in range(SLOTS) if (mask >> bit) & 1 == 1]
 
 
 def longest_row(slots):
@@ -103,17 +118,105 @@ def longest_row(slots):
 
 def facts_of(mask):
     """How many slots a mask has, the first, the last, and where its longest row begins and how long it is."""
-    slots = slots_of(mask)
+    slots = bits_of(mask)
     if not slots:
         return [0, SLOTS, SLOTS, 0, 0]
     return [len(slots), slots[0], slots[-1]] + longest_row(slots)
+
+
+def jobs_in_order(jobs):
+    """Whether each job ends behind its beginning, and no later than the job behind it."""
+    latest = 0
+    for begin, end, worth in jobs:
+        if end <= begin or end < latest:
+            return False
+        latest = end
+    return True
+
+
+def ended_by(jobs, moment):
+    """How many jobs end no later than a moment; as jobs stand by their ends, these are the first."""
+    return len([end for begin, end, worth in jobs if end <= moment])
+
+
+def best_worths(jobs):
+    """Of each number from 0 on the best worth that is to be had of so many first jobs."""
+    worths = [0]
+    for begin, end, worth in jobs:
+        # What has ended when a job begins ends ahead of it, and so stands ahead of it: its worth is known.
+        worths.append(max(worths[-1], worth + worths[ended_by(jobs, begin)]))
+    return worths
+
+
+def chosen_jobs(jobs, worths):
+    """The numbers of the best jobs, rising."""
+    chosen = []
+    moment = jobs[-1][1] if jobs else 0
+    for number in range(len(jobs) - 1, -1, -1):
+        # All jobs ahead of one that ends by that moment end by it too, so none of them is to be left out of the best.
+        if jobs[number][1] <= moment and worths[number + 1] > worths[number]:
+            chosen.append(number)
+            moment = jobs[number][0]
+    chosen.reverse()
+    return chosen
+
+
+def rounded_up(distance, speed):
+    """How long a distance takes at a speed, rounded up."""
+    return (distance + speed - 1) // speed
+
+
+def turning(va, vb, place, other):
+    """How long turning takes from one place to another."""
+    return max(rounded_up(abs(place[0] - other[0]), va), rounded_up(abs(place[1] - other[1]), vb))
+
+
+def turnings_from(va, vb, place, places):
+    """How long turning takes from one place to each of some."""
+    return [turning(va, vb, place, other) for other in places]
+
+
+def onward(turns, least, at, to, left):
+    """The least turnings from one place to another and then through all others that are left."""
+    return turns[at][to] + least[left ^ (1 << to)][to]
+
+
+def least_onward(turns, least, at, left):
+    """The least turnings from a place through all that are left."""
+    return min([onward(turns, least, at, to, left) for to in bits_of(left)])
+
+
+def least_turnings(turns):
+    """Of each mask of places that are left, of each place the least turnings from it through these."""
+    count = len(turns)
+    least = [[0] * count]
+    for left in range(1, 1 << count):
+        least.append([least_onward(turns, least, at, left) for at in range(count)])
+    return least
+
+
+def shortest_tour(turns, least, at, left):
+    """The places that are left, in the order of the shortest tour from one place."""
+    tour = []
+    while left != 0:
+        best = least_onward(turns, least, at, left)
+        # Of as short tours the one that comes first in order is told, so the lowest number goes first.
+        at = [to for to in bits_of(left) if onward(turns, least, at, to, left) == best][0]
+        left = left ^ (1 << at)
+        tour.append(at)
+    return tour
+
+
+def two_lists(numbers, together):
+    """The answer that tells a list of numbers and one number more, each behind how long it is."""
+    return [len(numbers), len(numbers)] + numbers + [1, together]
 
 
 def np_up(t, z, l):
     """Of each way of l the mask of the slots whose zenith in z it is at least t along."""
     if not all_below([t], LONG_SPAN):
         return [OUT_OF_RANGE]
-    if not ways_in_range(z, MOST_ZENITHS) or not ways_in_range(l, MOST_WAYS):
+    if not words_in_range(z, 3 * MOST_ZENITHS) or not words_in_range(l, 3 * MOST_WAYS):
         return [OUT_OF_RANGE]
     zenith_numbers = signed_words(z)
     way_numbers = signed_words(l)
@@ -147,6 +250,32 @@ def np_crowd(l):
         return [OUT_OF_RANGE]
     counts = [0] * SLOTS
     for mask in l:
-        for slot in slots_of(mask):
+        for slot in bits_of(mask):
             counts[slot] = counts[slot] + 1
     return [0] + counts
+
+
+def np_best(rows):
+    """The numbers of the best jobs of rows, rising, and their worth together."""
+    if not words_in_range(rows, 3 * MOST_JOBS):
+        return [OUT_OF_RANGE]
+    jobs = in_threes(rows)
+    if not jobs_in_order(jobs):
+        return [JOBS_OUT_OF_ORDER]
+    worths = best_worths(jobs)
+    return two_lists(chosen_jobs(jobs, worths), worths[-1])
+
+
+def np_tour(va, vb, i, l):
+    """The other places of l in the order of the shortest tour from place i, and its turnings together."""
+    if not speed_in_range(va) or not speed_in_range(vb):
+        return [OUT_OF_RANGE]
+    if not all_below([i], WORD_SPAN) or not words_in_range(l, 2 * MOST_PLACES):
+        return [OUT_OF_RANGE]
+    places = in_twos(signed_words(l))
+    if i >= len(places):
+        return [NO_SUCH_PLACE]
+    turns = [turnings_from(va, vb, place, places) for place in places]
+    least = least_turnings(turns)
+    others = ((1 << len(places)) - 1) ^ (1 << i)
+    return two_lists(shortest_tour(turns, least, i, others), least[others][i])
