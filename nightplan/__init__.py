@@ -1,1 +1,1 @@
-"""A night's plan: when stars are up, where rows of slots may begin, the best jobs, and the shortest tour."""
+"""A night's plan: when stars are up, where rows may begin, the best jobs, the shortest tour, and what else fits."""

@@ -14,7 +14,9 @@ MOST_ZENITHS = 64
 MOST_WAYS = 1024
 MOST_MASKS = 1024
 MOST_JOBS = 16
-MOST_PLACES = 8
+MOST_TOUR_PLACES = 8
+MOST_TURNS = 1024
+MOST_WISHES = 256
 GREATEST_SIZE = 16777216
 GREATEST_SPEED = 1048576
 
@@ -58,7 +60,7 @@ def in_threes(numbers):
 
 
 def in_twos(numbers):
-    """The places of a flat list, each a tuple of two numbers."""
+    """The places or wishes of a flat list, each a tuple of two numbers."""
     return [(numbers[i], numbers[i + 1]) for i in range(0, len(numbers), 2)]
 
 
@@ -91,9 +93,9 @@ def speed_in_range(speed):
     return speed >= 1 and speed <= GREATEST_SPEED
 
 
-def masks_in_range(masks):
-    """Whether a list holds at most 1024 numbers, each a mask."""
-    return len(masks) <= MOST_MASKS and all_below(masks, LONG_SPAN)
+def masks_in_range(masks, most):
+    """Whether a list holds at most so many numbers, each a mask."""
+    return len(masks) <= most and all_below(masks, LONG_SPAN)
 
 
 def bits_of(mask):
@@ -207,6 +209,35 @@ def shortest_tour(turns, least, at, left):
     return tour
 
 
+def wish_starts(d, mask):
+    """The mask of the slots at which a wish may be begun."""
+    if d < 1 or d > SLOTS:
+        return 0
+    return starts_mask(d, mask)
+
+
+def urgent_first(starts, ranks):
+    """The numbers of the wishes, each ahead of those that it is preferred to where both may begin."""
+    # The last slot of the whole night decides, wherever one is filling, so that one order serves at every slot;
+    # sorted leaves wishes that are as urgent as they stood, the first of them first.
+    return sorted(range(len(starts)), key=lambda number: (-ranks[number], starts[number].bit_length()))
+
+
+def fillings(slot, order, starts, lengths):
+    """The wishes that are begun from a slot on, each a tuple of the wish and its slot."""
+    left = list(order)
+    begun = []
+    while slot < SLOTS:
+        able = [number for number in left if (starts[number] >> slot) & 1 == 1]
+        if able:
+            begun.append((able[0], slot))
+            left.remove(able[0])
+            slot = slot + lengths[able[0]]
+        else:
+            slot = slot + 1
+    return begun
+
+
 def two_lists(numbers, together):
     """The answer that tells a list of numbers and one number more, each behind how long it is."""
     return [len(numbers), len(numbers)] + numbers + [1, together]
@@ -229,14 +260,14 @@ def np_up(t, z, l):
 
 def np_starts(d, l):
     """Of each mask of l the mask of the slots at which d in a row may begin."""
-    if d < 0 or d > SLOTS or not masks_in_range(l):
+    if d < 0 or d > SLOTS or not masks_in_range(l, MOST_MASKS):
         return [OUT_OF_RANGE]
     return [0] + [starts_mask(d, mask) for mask in l]
 
 
 def np_facts(l):
     """Of each mask of l how many slots, the first, the last, and where the longest row begins and how long it is."""
-    if not masks_in_range(l):
+    if not masks_in_range(l, MOST_MASKS):
         return [OUT_OF_RANGE]
     answer = [0]
     for mask in l:
@@ -246,7 +277,7 @@ def np_facts(l):
 
 def np_crowd(l):
     """Of each slot how many masks of l have it."""
-    if not masks_in_range(l):
+    if not masks_in_range(l, MOST_MASKS):
         return [OUT_OF_RANGE]
     counts = [0] * SLOTS
     for mask in l:
@@ -270,7 +301,7 @@ def np_tour(va, vb, i, l):
     """The other places of l in the order of the shortest tour from place i, and its turnings together."""
     if not speed_in_range(va) or not speed_in_range(vb):
         return [OUT_OF_RANGE]
-    if not all_below([i], WORD_SPAN) or not words_in_range(l, 2 * MOST_PLACES):
+    if not all_below([i], WORD_SPAN) or not words_in_range(l, 2 * MOST_TOUR_PLACES):
         return [OUT_OF_RANGE]
     places = in_twos(signed_words(l))
     if i >= len(places):
@@ -279,3 +310,31 @@ def np_tour(va, vb, i, l):
     least = least_turnings(turns)
     others = ((1 << len(places)) - 1) ^ (1 << i)
     return two_lists(shortest_tour(turns, least, i, others), least[others][i])
+
+
+def np_turns(va, vb, a, b):
+    """How long turning takes from each place of a to the place of b that stands where it stands."""
+    if not speed_in_range(va) or not speed_in_range(vb):
+        return [OUT_OF_RANGE]
+    if not words_in_range(a, 2 * MOST_TURNS) or not words_in_range(b, 2 * MOST_TURNS):
+        return [OUT_OF_RANGE]
+    places = in_twos(signed_words(a))
+    others = in_twos(signed_words(b))
+    return [0] + [turning(va, vb, place, other) for place, other in zip(places, others)]
+
+
+def np_fill(i, l, w):
+    """Which wishes are begun at which slots when the night is filled from slot i on, in order."""
+    if i < 0 or i > SLOTS:
+        return [OUT_OF_RANGE]
+    if not masks_in_range(l, MOST_WISHES) or not words_in_range(w, 2 * MOST_WISHES):
+        return [OUT_OF_RANGE]
+    wishes = in_twos(w)
+    lengths = [d for d, rank in wishes]
+    starts = [wish_starts(d, mask) for d, mask in zip(lengths, l)]
+    order = urgent_first(starts, [rank for d, rank in wishes])
+    begun = fillings(i, order, starts, lengths)
+    answer = [len(begun)]
+    for number, slot in begun:
+        answer.extend([number, slot])
+    return answer

@@ -3,6 +3,9 @@
 import copy
 
 ALL = 2 ** 64 - 1
+LOW = -2 ** 31
+HIGH = 2 ** 31 - 1
+FASTEST = 2 ** 20
 
 
 def next_state(state):
@@ -34,6 +37,25 @@ def spread_masks(count, seed):
 def words(*rows):
     """The flat list of words that rows of numbers with signs are handed in as."""
     return [number % 2 ** 32 for numbers in rows for number in numbers]
+
+
+def spread_places(count, reach, seed):
+    """Places with words of both signs up to a size, the same each time."""
+    numbers = []
+    state = seed
+    for _ in range(2 * count):
+        state = next_state(state)
+        numbers.append(state // 2 ** 30 % (2 * reach + 1) - reach)
+    return [tuple(numbers[k:k + 2]) for k in range(0, 2 * count, 2)]
+
+
+def turning(va, vb, one, other):
+    """The document's words: whole turnings, and one more for what is left over."""
+    taken = []
+    for speed, a, b in zip((va, vb), one, other):
+        whole, rest = divmod(abs(a - b), speed)
+        taken.append(whole + (1 if rest else 0))
+    return max(taken)
 
 
 def refuse_change(*arguments):

@@ -3,12 +3,8 @@
 import itertools
 import unittest
 
-from helper import check_plain, check_stands_alone, next_state, words
+from helper import FASTEST, HIGH, LOW, check_plain, check_stands_alone, spread_places, turning, words
 from nightplan.plan import np_tour
-
-LOW = -2 ** 31
-HIGH = 2 ** 31 - 1
-FASTEST = 2 ** 20
 
 
 def tour(va, vb, i, *places):
@@ -20,15 +16,6 @@ def answer(order, together):
     return [len(order), len(order)] + order + [1, together]
 
 
-def turning(va, vb, one, other):
-    """The document's words: whole turnings, and one more for what is left over."""
-    taken = []
-    for speed, a, b in zip((va, vb), one, other):
-        whole, rest = divmod(abs(a - b), speed)
-        taken.append(whole + (1 if rest else 0))
-    return max(taken)
-
-
 def expected(va, vb, i, *places):
     """The first of the shortest among all orders, which come as the document puts them in order."""
     shortest = None
@@ -38,16 +25,6 @@ def expected(va, vb, i, *places):
         if shortest is None or together < shortest[1]:
             shortest = (list(order), together)
     return answer(*shortest)
-
-
-def spread_places(count, reach, seed):
-    """Places with words of both signs up to a size, the same each time."""
-    numbers = []
-    state = seed
-    for _ in range(2 * count):
-        state = next_state(state)
-        numbers.append(state // 2 ** 30 % (2 * reach + 1) - reach)
-    return [tuple(numbers[k:k + 2]) for k in range(0, 2 * count, 2)]
 
 
 class Ordinary(unittest.TestCase):
