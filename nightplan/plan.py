@@ -338,3 +338,10 @@ def np_fill(i, l, w):
     for number, slot in begun:
         answer.extend([number, slot])
     return answer
+
+
+def np_starts1(d, m):
+    """At how many slots d in a row may begin in a mask."""
+    if not all_below([d], WORD_SPAN) or not all_below([m], LONG_SPAN):
+        return [OUT_OF_RANGE]
+    return [len(bits_of(starts_mask(min(d, SLOTS), m)))]

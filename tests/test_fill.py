@@ -121,7 +121,8 @@ class Rank(unittest.TestCase):
 
 class AsGreat(unittest.TestCase):
     def test_what_can_wait_least_goes_ahead(self):
-        self.assertEqual(fill(0, (row(0, 9), 1, 3), (row(0, 7), 1, 3), (row(0, 8), 1, 3)), answer((1, 0), (2, 1), (0, 2)))
+        wishes = [(row(0, 9), 1, 3), (row(0, 7), 1, 3), (row(0, 8), 1, 3)]
+        self.assertEqual(fill(0, *wishes), answer((1, 0), (2, 1), (0, 2)))
 
     def test_the_last_slot_is_where_it_may_begin_and_not_where_its_mask_ends(self):
         self.assertEqual(fill(0, (row(0, 9), 2, 3), (row(0, 10), 5, 3)), answer((1, 0), (0, 5)))
